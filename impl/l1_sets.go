@@ -134,6 +134,11 @@ func (x Span) empty() bool {
 	return x.Lo > x.Hi
 }
 
+// has reports whether a span has the number n.
+func (x Span) has(n int) bool {
+	return x.Lo <= n && n <= x.Hi
+}
+
 // asSet returns spans in normal form, unless they are too many for a set.
 func asSet(s []Span) ([]Span, bool) {
 	if len(s) > MaxSpans {
@@ -158,7 +163,7 @@ func numbersOf(s []Span) iter.Seq[int] {
 // spansHave reports whether n is in one of some spans.
 func spansHave(s []Span, n int) bool {
 	for _, x := range s {
-		if x.Lo <= n && n <= x.Hi {
+		if x.has(n) {
 			return true
 		}
 	}
