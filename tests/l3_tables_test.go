@@ -626,6 +626,25 @@ func spoil(x impl.Table) {
 	}
 }
 
+// checkTestsApart writes over each test of a table, also behind its end, and looks at the others. The table is not to be used afterwards.
+func checkTestsApart(t *testing.T, what string, x impl.Table) {
+	t.Helper()
+	for n, r := range x.Rules {
+		for k, s := range r.Tests {
+			want := cloneTable(x)
+			want.Rules[n].Tests[k] = nil
+			for i := range s[:cap(s)] {
+				s[:cap(s)][i] = impl.Span{Lo: 77, Hi: 77}
+			}
+			r.Tests[k] = nil
+			_ = append(r.Tests, row(77, 77))
+			if show(x) != show(want) {
+				t.Fatalf("tests of %s share memory", what)
+			}
+		}
+	}
+}
+
 // TestTablesShareNoMemory writes over results, as a whole, and each test of a rule for itself.
 func TestTablesShareNoMemory(t *testing.T) {
 	for text, want := range goodTables() {
@@ -636,20 +655,7 @@ func TestTablesShareNoMemory(t *testing.T) {
 		if show(second) != show(want) || show(third) != show(want) {
 			t.Errorf("ParseTable(%q) shares memory", text)
 		}
-		for n, r := range second.Rules {
-			for k, s := range r.Tests {
-				kept := cloneTable(second)
-				kept.Rules[n].Tests[k] = nil
-				for i := range s[:cap(s)] {
-					s[:cap(s)][i] = impl.Span{Lo: 77, Hi: 77}
-				}
-				r.Tests[k] = nil
-				_ = append(r.Tests, row(77, 77))
-				if show(second) != show(kept) {
-					t.Fatalf("tests of ParseTable(%q) share memory", text)
-				}
-			}
-		}
+		checkTestsApart(t, fmt.Sprintf("ParseTable(%q)", text), second)
 	}
 	x := tableOf(1, columnsOf(numbers(0, 9)), manyRules(12, row(0, 9))...)
 	first := impl.MatchesOf(x, []int{4})

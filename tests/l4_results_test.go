@@ -1,6 +1,7 @@
 package tests
 
 import (
+	"fmt"
 	"math"
 	"slices"
 	"strings"
@@ -399,20 +400,7 @@ func TestWithPolicySharesNoMemory(t *testing.T) {
 		if show(second) != kept || impl.FormatTable(x) != text {
 			t.Fatalf("WithPolicy(%q) shares memory with another result, or with the table", text)
 		}
-		for n, r := range second.Rules {
-			for k, s := range r.Tests {
-				want := cloneTable(second)
-				want.Rules[n].Tests[k] = nil
-				for i := range s[:cap(s)] {
-					s[:cap(s)][i] = impl.Span{Lo: 77, Hi: 77}
-				}
-				r.Tests[k] = nil
-				_ = append(r.Tests, row(77, 77))
-				if show(second) != show(want) {
-					t.Fatalf("tests of WithPolicy(%q) share memory", text)
-				}
-			}
-		}
+		checkTestsApart(t, fmt.Sprintf("WithPolicy(%q)", text), second)
 	}
 }
 
